@@ -1,5 +1,5 @@
-// Package ratchet: how keys are turned on, and how a text is sealed by one:
-// see DOC.md, 'The parts'.
+// Package ratchet: how keys are turned on, and how a text is sealed by one and
+// opened again: see DOC.md, 'The parts'.
 package ratchet
 
 import (
@@ -31,15 +31,54 @@ func Behind(chain string) string {
 	return digest.Mac(chain, "\x02")
 }
 
+// sealKeys: what SEAL makes of a message's key.
+type sealKeys struct {
+	stream string
+	tag    string
+	nonce  string
+}
+
 // Seal is SEAL: the turned text, and the tag.
 func Seal(key string, with string, text string) (string, string) {
-	keys := digest.Derive(noSalt, key, sealPurpose, 2*api.Key+api.Nonce)
-	streamKey, rest := cut(keys, api.Key)
-	tagKey, nonce := cut(rest, api.Key)
-	turned := stream.Turn(streamKey, nonce, text)
-	length := octets.Text(uint32(len(with)), 4)
-	tag := digest.Mac(tagKey, length+with+turned)
+	keys := sealKeysOf(key)
+	turned := stream.Turn(keys.stream, keys.nonce, text)
+	tag := keys.tagOf(with, turned)
 	return turned, tag
+}
+
+// Open is the way back: the text, if the tag is SEAL's.
+func Open(key string, with string, turned string, tag string) (string, bool) {
+	keys := sealKeysOf(key)
+	want := keys.tagOf(with, turned)
+	if !alike(tag, want) {
+		return "", false
+	}
+	return stream.Turn(keys.stream, keys.nonce, turned), true
+}
+
+func sealKeysOf(key string) sealKeys {
+	all := digest.Derive(noSalt, key, sealPurpose, 2*api.Key+api.Nonce)
+	streamKey, rest := cut(all, api.Key)
+	tagKey, nonce := cut(rest, api.Key)
+	return sealKeys{stream: streamKey, tag: tagKey, nonce: nonce}
+}
+
+func (k sealKeys) tagOf(with string, turned string) string {
+	length := octets.Text(uint32(len(with)), 4)
+	return digest.Mac(k.tag, length+with+turned)
+}
+
+// alike looks at every byte, so that the time it takes does not tell how much
+// of a tag is right.
+func alike(a string, b string) bool {
+	if len(a) != len(b) {
+		return false
+	}
+	var bits byte
+	for i := 0; i < len(a); i++ {
+		bits |= a[i] ^ b[i]
+	}
+	return bits == 0
 }
 
 // cut parts a text behind its first n bytes; a shorter one stays whole.

@@ -78,6 +78,51 @@ func TestSeal(t *testing.T) {
 	}
 }
 
+func TestOpen(t *testing.T) {
+	r := rand.New(rand.NewSource(4))
+	for _, length := range []int{0, 1, 38, 138} {
+		for _, n := range []int{0, 1, 5, 64, 65, 200} {
+			key, with, text := randomText(r, 32), randomText(r, length), randomText(r, n)
+			turned, tag := Seal(key, with, text)
+			if opened, fine := Open(key, with, turned, tag); !fine || opened != text {
+				t.Errorf("with %d bytes, %d bytes opened: %x, %v, want %x", length, n, opened, fine, text)
+			}
+			other := randomText(r, 32)
+			refuseOpen(t, "another key", other, with, turned, tag)
+			refuseOpen(t, "another tag", key, with, turned, other)
+			refuseOpen(t, "a byte more with it", key, with+"x", turned, tag)
+			refuseOpen(t, "a byte more of text", key, with, turned+"x", tag)
+			if n > 0 {
+				refuseOpen(t, "a byte exchanged between both", key, with+turned[:1], turned[1:], tag)
+			}
+		}
+	}
+}
+
+func refuseOpen(t *testing.T, what string, key string, with string, turned string, tag string) {
+	t.Helper()
+	if text, fine := Open(key, with, turned, tag); fine || text != "" {
+		t.Errorf("%s: %x, %v", what, text, fine)
+	}
+}
+
+// Every bit of a tag counts, and its length.
+func TestOpenTag(t *testing.T) {
+	key := strings.Repeat("k", 32)
+	turned, tag := Seal(key, "with", "text")
+	for bit := 0; bit < 8*len(tag); bit++ {
+		other := []byte(tag)
+		other[bit/8] ^= 1 << (bit % 8)
+		refuseOpen(t, "a bit of the tag turned", key, "with", turned, string(other))
+	}
+	for n := 0; n < len(tag); n++ {
+		refuseOpen(t, "a short tag", key, "with", turned, tag[:n])
+		refuseOpen(t, "a short tag", key, "with", turned, tag[len(tag)-n:])
+	}
+	refuseOpen(t, "a long tag", key, "with", turned, tag+"\x00")
+	refuseOpen(t, "a tag twice", key, "with", turned, tag+tag)
+}
+
 func TestCut(t *testing.T) {
 	for _, c := range []struct {
 		text  string

@@ -9,6 +9,9 @@ const (
 	messageMark = "RM"
 	stateMark   = "RS"
 	u16Bytes    = 2
+
+	// numbers in a chain are counted from 0 on
+	maxNumber = api.MaxCount - 1
 )
 
 func u16(n int) string {
@@ -21,6 +24,25 @@ func oneByte(n int) string {
 
 func head(point string, ahead int, number int) string {
 	return messageMark + point + u16(ahead) + u16(number)
+}
+
+// parts: those of a message.
+type parts struct {
+	point  string
+	ahead  int
+	number int
+	turned string
+	tag    string
+}
+
+// messageOf answers false where the bytes are no message.
+func messageOf(text string) (parts, bool) {
+	r := &reader{rest: text}
+	m := r.message()
+	if r.bad || r.rest != "" {
+		return parts{}, false
+	}
+	return m, true
 }
 
 // reader goes through bytes from their front. Once something is amiss it stays
@@ -67,4 +89,16 @@ func (r *reader) oneByte(most int) int {
 
 func (r *reader) key() string {
 	return r.take(api.Key)
+}
+
+func (r *reader) message() parts {
+	var m parts
+	r.mark(messageMark)
+	m.point = r.key()
+	m.ahead = r.u16(api.MaxCount)
+	m.number = r.u16(maxNumber)
+	length := r.u16(api.MaxText)
+	m.turned = r.take(length)
+	m.tag = r.key()
+	return m
 }

@@ -119,14 +119,20 @@ func (m *model) send(t *testing.T, text string, data string) (string, api.Errno)
 	case m.ns == 300:
 		return "", api.ErrFull
 	}
-	head := "RM" + wantPoint(t, m.self) + two(m.pn) + two(m.ns)
-	keys := derived("", mac(m.sending, "\x01"), "message keys", 76)
+	message := sealed(mac(m.sending, "\x01"), data, wantPoint(t, m.self), m.pn, m.ns, text)
+	m.sending = mac(m.sending, "\x02")
+	m.ns++
+	return message, api.OK
+}
+
+// sealed is a message by its key.
+func sealed(key string, data string, point string, ahead int, number int, text string) string {
+	head := "RM" + point + two(ahead) + two(number)
+	keys := derived("", key, "message keys", 76)
 	turned := stream.Turn(keys[:32], keys[64:], text)
 	length := string(binary.BigEndian.AppendUint32(nil, uint32(len(data)+len(head))))
 	tag := mac(keys[32:64], length+data+head+turned)
-	m.sending = mac(m.sending, "\x02")
-	m.ns++
-	return head + two(len(turned)) + turned + tag, api.OK
+	return head + two(len(turned)) + turned + tag
 }
 
 func randomText(r *rand.Rand, n int) string {

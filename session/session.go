@@ -24,13 +24,6 @@ type Session struct {
 	draws   []string
 }
 
-// keptKey: the key of a message that has not come.
-type keptKey struct {
-	point  string
-	number int
-	key    string
-}
-
 // Start: the side that sends first: a secret that both have, the other side's point, an own key. ErrArg; ErrZero.
 func Start(secret string, theirs string, self string) (*Session, api.Errno) {
 	if len(secret) != api.Key || len(theirs) != api.Key || len(self) != api.Key {
@@ -92,9 +85,6 @@ func (s *Session) Send(text string, data string) (string, api.Errno) {
 	return front + u16(len(turned)) + turned + tag, api.OK
 }
 
-// Read: a message's text. ErrLong (what goes with it); ErrSyntax; ErrOld; ErrSkip; ErrFull; ErrDraw; ErrZero; ErrAuth: then nothing has changed.
-func (s *Session) Read(message string, data string) (string, api.Errno) { return "", 0 }
-
 // allNoughts looks at every byte, so that the time it takes does not tell a
 // secret.
 func allNoughts(text string) bool {
@@ -103,13 +93,4 @@ func allNoughts(text string) bool {
 		bits |= text[i]
 	}
 	return bits == 0
-}
-
-// joined answers a list of its own: another session may have the list that it
-// was given.
-func joined(list []string, text string) []string {
-	var longer []string
-	longer = append(longer, list...)
-	longer = append(longer, text)
-	return longer
 }

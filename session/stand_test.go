@@ -16,11 +16,9 @@ func TestSessionsStandByThemselves(t *testing.T) {
 	base := randomModel(r)
 	base.sending = same(4)
 	base.ns = 0
-	base.draws = base.draws[:0]
+	base.draws = nil
 	for i := 0; i < 4; i++ {
-		m := *base
-		m.draws = nil
-		models = append(models, &m)
+		models = append(models, base.copied())
 		sessions = append(sessions, imported(t, base.bytes()))
 	}
 	models = append(models, modelStart(same(5), wantPoint(t, same(2)), same(1)))
@@ -50,14 +48,57 @@ func TestCopyStandsByItself(t *testing.T) {
 	}
 }
 
+// A copy and what it was made of read apart, whichever of them reads first.
+func TestCopyReadsByItself(t *testing.T) {
+	m := talking()
+	messages, whats := eachKind(m, "", "text")
+	for i := range messages {
+		for j := range messages {
+			s := imported(t, m.bytes())
+			other := *s
+			reads(t, whats[i]+", by the copy", &other, messages[i], "", "text")
+			checkState(t, "P2: behind a copy's Read", s, m.bytes())
+			want := other.Export()
+			reads(t, whats[j], s, messages[j], "", "text")
+			s.Lay(same(100))
+			checkState(t, "P2: a copy that has read", &other, want)
+			by := m.copied()
+			by.read(messages[j], "")
+			by.lay(same(100))
+			checkState(t, "P2: whose copy has read", s, by.bytes())
+		}
+	}
+}
+
+// New points join those that have been in each copy apart.
+func TestCopyTakesPointsByItself(t *testing.T) {
+	r := rand.New(rand.NewSource(14))
+	for been := 0; been <= 21; been++ {
+		m := talking()
+		m.past = randomList(r, been)
+		s := imported(t, m.bytes())
+		other := *s
+		copied := m.copied()
+		for n := byte(0); n < 3; n++ {
+			point, otherPoint := same(60+n), same(70+n)
+			checkAsModel(t, "a new point", s, m, m.newMessage(point, 0, 0, "", "text"), "")
+			checkAsModel(t, "a new point, by the copy", &other, copied, copied.newMessage(otherPoint, 0, 0, "", "text"), "")
+		}
+		checkState(t, "P2: whose copy has read", s, m.bytes())
+	}
+}
+
 // The same calls are answered alike, whatever was called before.
 func TestSameCallsSameAnswers(t *testing.T) {
 	var exports [3]string
 	for i := range exports {
 		s := start(t, same(5), wantPoint(t, same(2)), same(1))
 		s.Lay(same(3))
-		s.Send("text", "data")
-		exports[i] = s.Export() + s.Export()
+		message, _ := s.Send("text", "data")
+		other := wait(t, same(5), same(2))
+		other.Lay(same(4))
+		reads(t, "the same again", other, message, "data", "text")
+		exports[i] = s.Export() + s.Export() + other.Export()
 		session.Start("", "", "")
 		session.Import("")
 	}

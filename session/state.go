@@ -2,9 +2,6 @@ package session
 
 import "messenger/api"
 
-// maxNumber: numbers in a chain are counted from 0 on.
-const maxNumber = api.MaxCount - 1
-
 // Export: the session as bytes; the empty text where there is no session.
 func (s *Session) Export() string {
 	if s == nil {

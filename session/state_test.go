@@ -227,13 +227,17 @@ func TestImportBent(t *testing.T) {
 // goOn does the same with a session and with the model.
 func goOn(t *testing.T, r *rand.Rand, s *session.Session, m *model) {
 	t.Helper()
-	if r.Intn(3) == 0 {
+	switch r.Intn(4) {
+	case 0:
 		draw := randomText(r, []int{32, 32, 32, 31, 33, 0}[r.Intn(6)])
 		e := s.Lay(draw)
 		if want := m.lay(draw); e != want {
 			t.Errorf("P6, P10: Lay of %d bytes: %d, want %d", len(draw), e, want)
 		}
-	} else {
+	case 1:
+		data := randomText(r, []int{0, r.Intn(100), 100, 101}[r.Intn(4)])
+		checkAsModel(t, "P10", s, m, m.randomMessage(r, data), data)
+	default:
 		text := randomText(r, []int{0, r.Intn(200), 200, 201}[r.Intn(4)])
 		data := randomText(r, []int{0, r.Intn(100), 100, 101}[r.Intn(4)])
 		message, e := s.Send(text, data)
